@@ -27,7 +27,7 @@ func wanted(key, b []byte) [32]byte {
 }
 
 // The tags stand here as texts, so that they hang on no other program. They are
-// RFC 4231's examples, and that of nothing under no key.
+// RFC 4231's examples but the one cut short, and that of nothing under no key.
 func TestSumKnown(t *testing.T) {
 	long := bytes.Repeat([]byte{0xaa}, 131)
 	counted := make([]byte, 25)
